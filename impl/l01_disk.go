@@ -66,7 +66,7 @@ func FlushDisk(d Disk) (Disk, int) {
 	if !d.isRight() {
 		return Disk{}, ErrBad
 	}
-	return d.settled([]bool{true}), OK
+	return d.flushed(), OK
 }
 
 // CrashDisk makes those writes sure that are kept; the others are gone.
@@ -132,6 +132,10 @@ func (d Disk) written(at int, t string) Disk {
 	copy(cache, d.Cache)
 	cache[len(d.Cache)] = Write{At: at, Data: t}
 	return Disk{Sure: copyList(d.Sure), Cache: cache}
+}
+
+func (d Disk) flushed() Disk {
+	return d.settled([]bool{true})
 }
 
 // settled goes round keeps write by write, not sector by sector: of two writes to one sector the older one may be all that stays.
